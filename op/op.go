@@ -41,6 +41,7 @@ func Encode(l []api.Op) (string, api.Errno) {
 		return "", Check(l[wrong])
 	}
 	var out strings.Builder
+	out.Grow(len(l) * (1 + sizeOfA))
 	for _, o := range l {
 		putOp(&out, o)
 	}

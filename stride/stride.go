@@ -1,4 +1,5 @@
-package machine
+// Package stride: one op of a machine that was checked, for the layers that do ops. Since a step of a right machine is a right machine, who does many of them in a row needs to check but once.
+package stride
 
 import (
 	"slices"
@@ -18,8 +19,8 @@ type doer struct {
 	program api.Program
 }
 
-// step of a machine that was checked, and has an op to do. All that an op takes is there, so that nothing but a trap is ever recovered.
-func step(p api.Program, m api.Machine) (after api.Machine) {
+// Do the next op of a machine that was checked, and is Running or Waiting: the machine then, new memory. All that an op takes is there, so that nothing but a trap is ever recovered.
+func Do(p api.Program, m api.Machine) (after api.Machine) {
 	defer func() {
 		if why, ok := recover().(trap); ok {
 			after = fresh.Machine(m)
@@ -29,6 +30,15 @@ func step(p api.Program, m api.Machine) (after api.Machine) {
 	d := doer{fresh.Machine(m), p}
 	d.do()
 	return d.Machine
+}
+
+// Begin function f of a program that was checked: its frame at first, locals 0 or none.
+func Begin(p api.Program, f int) api.Frame {
+	locals := make([]api.Value, len(p.Funcs[f].Locals))
+	for i, t := range p.Funcs[f].Locals {
+		locals[i].Ref = t == api.TypeRef
+	}
+	return api.Frame{Func: f, Locals: locals}
 }
 
 // do the op that is next. (A machine that has something in In was checked not to be Waiting.)
@@ -115,7 +125,7 @@ func (d *doer) call(f int) {
 	if len(d.Frames) == api.MaxFrames {
 		panic(trap(api.TrapDepth))
 	}
-	begun := frameOf(d.program, f)
+	begun := Begin(d.program, f)
 	params := begun.Locals[:d.program.Funcs[f].Params]
 	for i := range slices.Backward(params) {
 		params[i] = d.take()

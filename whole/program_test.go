@@ -1,15 +1,20 @@
-package machine_test
+// Package whole: tests of what holds over several layers, with programs and machines of all sorts.
+package whole
 
 import (
-	"fmt"
 	"math/rand"
 	"slices"
 	"testing"
 
 	"mizzen/api"
-	"mizzen/fresh"
 	"mizzen/machine"
 	"mizzen/verify"
+)
+
+// Types, in short.
+const (
+	i = api.TypeInt
+	r = api.TypeRef
 )
 
 // writer of a function's code: sentences, each of which begins and ends with nothing on the stack, so that it may go on at the beginning of any of them.
@@ -166,111 +171,58 @@ func someProgram(t *testing.T, rnd *rand.Rand) api.Program {
 	return w.p
 }
 
-// feed a machine that waits.
-func feed(rnd *rand.Rand, m api.Machine) api.Machine {
+func program(l ...api.Func) api.Program { return api.Program{Funcs: l} }
+
+func start(t *testing.T, p api.Program) api.Machine {
+	t.Helper()
+	m, e := machine.Start(p)
+	if e != api.OK {
+		t.Fatalf("Start %v: %d", p, e)
+	}
+	return m
+}
+
+// step of a right machine; what comes of it is to be right, too.
+func step(t *testing.T, p api.Program, m api.Machine) api.Machine {
+	t.Helper()
+	next, e := machine.Step(p, m)
+	if e != api.OK {
+		t.Fatalf("%v: Step %v: %d", p, m, e)
+	}
+	if e := machine.Check(p, next); e != api.OK {
+		t.Fatalf("%v: Step %v: %v, of which Check says %d", p, m, next, e)
+	}
+	return next
+}
+
+// some numbers, to be sent.
+func some(rnd *rand.Rand) []int {
+	return []int{rnd.Intn(3), int(int32(rnd.Uint32()))}
+}
+
+// feed a machine, if it waits.
+func feed(m api.Machine, l []int) api.Machine {
 	if m.Status == api.Waiting {
-		m.In, m.Status = []int{rnd.Intn(3), int(int32(rnd.Uint32()))}, api.Running
+		m.In, m.Status = slices.Clone(l), api.Running
 	}
 	return m
 }
 
-// TestF4 runs programs that fit, each step of which is to be right; and each op, each trap and each status must have come.
-func TestF4(t *testing.T) {
-	rnd := rand.New(rand.NewSource(1))
-	var ops [22]int
-	var traps [6]int
-	var statuses [4]int
-	for range 250 {
-		p := someProgram(t, rnd)
-		m := start(t, p)
-		for range 60 {
-			inmost := m.Frames[len(m.Frames)-1]
-			ops[p.Funcs[inmost.Func].Code[inmost.Pc].Code]++
-			m = step(t, p, m)
-			statuses[m.Status]++
-			if m.Status == api.Done || m.Status == api.Trapped {
-				traps[m.Trap]++
-				break
-			}
-			m = feed(rnd, m)
-		}
-	}
-	for code, many := range ops[1:] {
-		if many == 0 {
-			t.Errorf("no op %d", code+1)
-		}
-	}
-	if slices.Contains(traps[1:], 0) || slices.Contains(statuses[:], 0) {
-		t.Errorf("traps %v, statuses %v", traps, statuses)
-	}
+func ended(m api.Machine) bool {
+	return m.Status == api.Done || m.Status == api.Trapped
 }
 
-// spoilt: a machine with something other in it, far from right or not.
-func spoilt(rnd *rand.Rand, m api.Machine) api.Machine {
-	m = fresh.Machine(m)
-	number := func() int { return int(rnd.Uint64()) >> (rnd.Intn(2) * rnd.Intn(64)) }
-	if rnd.Intn(3) > 0 {
-		number = func() int { return rnd.Intn(9) - 1 }
-	}
-	change := func(l []api.Value) {
-		if len(l) > 0 {
-			l[rnd.Intn(len(l))] = api.Value{Ref: rnd.Intn(2) == 0, N: number()}
-		}
-	}
-	switch rnd.Intn(10) {
-	case 0:
-		m.Status = number()
-	case 1:
-		m.Status, m.Trap = api.Trapped, number()
-	case 2:
-		m.Blocks = append(m.Blocks, []int{number()})
-	case 3:
-		m.In = append(m.In, number())
-	case 4:
-		m.Out = append(m.Out, make([]int, rnd.Intn(12))...)
-	}
-	if len(m.Frames) == 0 {
-		return m
-	}
-	f := &m.Frames[rnd.Intn(len(m.Frames))]
-	switch rnd.Intn(8) {
-	case 0:
-		f.Func = number()
-	case 1:
-		f.Pc = number()
-	case 2, 3, 4:
-		change(f.Locals)
-	case 5, 6:
-		change(f.Stack)
-	case 7:
-		m.Frames = m.Frames[:rnd.Intn(len(m.Frames)+1)]
-	}
-	return m
-}
-
-// TestF4SpoiltMachines: whatever Check takes, come to or not, steps to what Check takes; and whatever it does not take, Step does not either. Nothing panics.
-func TestF4SpoiltMachines(t *testing.T) {
-	rnd := rand.New(rand.NewSource(2))
-	right, wrong := 0, map[api.Errno]int{}
-	for range 120 {
+// along the ways of so many programs that fit: each machine that comes up is tried.
+func along(t *testing.T, seed int64, programs int, try func(rnd *rand.Rand, p api.Program, m api.Machine)) {
+	t.Helper()
+	rnd := rand.New(rand.NewSource(seed))
+	for range programs {
 		p := someProgram(t, rnd)
 		m := start(t, p)
-		for range 40 {
-			x := spoilt(rnd, m)
-			e := machine.Check(p, x)
-			if e == api.OK {
-				right++
-				step(t, p, x)
-			} else {
-				wrong[e]++
-				if next, f := machine.Step(p, x); f != e || fmt.Sprint(next) != fmt.Sprint(api.Machine{}) {
-					t.Fatalf("%v: Step %v: %v %d, want %d", p, x, next, f, e)
-				}
-			}
-			m = feed(rnd, step(t, p, m))
+		try(rnd, p, m)
+		for left := 60; left > 0 && !ended(m); left-- {
+			m = step(t, p, feed(m, some(rnd)))
+			try(rnd, p, m)
 		}
-	}
-	if right < 500 || len(wrong) != 6 || slices.ContainsFunc([]api.Errno{api.ErrForm, api.ErrMany, api.ErrRange, api.ErrState, api.ErrNone, api.ErrKind}, func(e api.Errno) bool { return wrong[e] < 10 }) {
-		t.Errorf("%d are right, wrong ones %v", right, wrong)
 	}
 }
