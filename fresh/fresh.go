@@ -28,6 +28,15 @@ func Machine(m api.Machine) api.Machine {
 	}
 }
 
+// World as it is.
+func World(w api.World) api.World {
+	out := api.World{Machines: make([]api.Machine, len(w.Machines))}
+	for i, m := range w.Machines {
+		out.Machines[i] = Machine(m)
+	}
+	return out
+}
+
 func frames(l []api.Frame) []api.Frame {
 	out := make([]api.Frame, len(l))
 	for i, f := range l {

@@ -63,3 +63,22 @@ func TestMachineIsNewMemory(t *testing.T) {
 		t.Errorf("a change of the copy is seen: %v", m)
 	}
 }
+
+func TestWorldAsItIs(t *testing.T) {
+	for _, w := range []api.World{{}, {Machines: []api.Machine{whole()}}, {Machines: []api.Machine{{}, whole(), {Trap: 1}}}} {
+		if got := fresh.World(w); fmt.Sprint(got) != fmt.Sprint(w) {
+			t.Errorf("World %v: %v", w, got)
+		}
+	}
+}
+
+func TestWorldIsNewMemory(t *testing.T) {
+	w := api.World{Machines: []api.Machine{whole(), whole()}}
+	was := fmt.Sprint(w)
+	got := fresh.World(w)
+	got.Machines[0].In[0], got.Machines[1].Blocks[0][0] = 77, 77
+	got.Machines[1].Status = 77
+	if fmt.Sprint(w) != was {
+		t.Errorf("a change of the copy is seen: %v", w)
+	}
+}

@@ -10,6 +10,11 @@ func Put(out *strings.Builder, l ...int) {
 	}
 }
 
+// PutFour bytes of a number behind a text, the greatest one first; of one below 0, those of it and 2^32.
+func PutFour(out *strings.Builder, n int) {
+	Put(out, n>>24, n>>16, n>>8, n)
+}
+
 // Number that bytes tell, the greatest one first.
 func Number(s string) int {
 	n := 0

@@ -26,6 +26,20 @@ func TestPut(t *testing.T) {
 	}
 }
 
+func TestPutFour(t *testing.T) {
+	for n, want := range map[int]string{
+		0: "\x00\x00\x00\x00", 1: "\x00\x00\x00\x01", 0x01020304: "\x01\x02\x03\x04", 2147483647: "\x7f\xff\xff\xff",
+		-1: "\xff\xff\xff\xff", -2: "\xff\xff\xff\xfe", -2147483648: "\x80\x00\x00\x00",
+	} {
+		var out strings.Builder
+		out.WriteString("ahead")
+		octet.PutFour(&out, n)
+		if out.String() != "ahead"+want {
+			t.Errorf("PutFour %d: %q, want %q", n, out.String(), "ahead"+want)
+		}
+	}
+}
+
 func TestNumber(t *testing.T) {
 	for s, want := range map[string]int{"": 0, "\x07": 7, "\xff": 255, "\x01\x02": 258, "\x80\x00\x00\x01": 0x80000001} {
 		if n := octet.Number(s); n != want {

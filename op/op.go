@@ -78,7 +78,7 @@ func namesA(code int) bool {
 func putOp(out *strings.Builder, o api.Op) {
 	octet.Put(out, o.Code)
 	if namesA(o.Code) {
-		octet.Put(out, o.A>>24, o.A>>16, o.A>>8, o.A)
+		octet.PutFour(out, o.A)
 	}
 }
 

@@ -9,6 +9,7 @@ import (
 	"mizzen/api"
 	"mizzen/collect"
 	"mizzen/fresh"
+	"mizzen/image"
 	"mizzen/machine"
 	"mizzen/meter"
 )
@@ -26,6 +27,14 @@ var calls = []struct {
 	{"Run 1", func(p api.Program, m api.Machine) (api.Machine, int, api.Errno) { return meter.Run(p, m, 1) }},
 	{"Run 20", func(p api.Program, m api.Machine) (api.Machine, int, api.Errno) { return meter.Run(p, m, 20) }},
 	{"Collect", collect.Collect},
+	{"Restore of Save", func(p api.Program, m api.Machine) (api.Machine, int, api.Errno) {
+		s, e := image.Save(p, m)
+		if e != api.OK {
+			return api.Machine{}, len(s), e
+		}
+		next, e := image.Restore(p, s)
+		return next, 0, e
+	}},
 }
 
 // part: a list, its spare room too, that may be filled with one thing, told by a number.
